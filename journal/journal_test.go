@@ -171,9 +171,9 @@ func sectorsOf(t *testing.T, text string) []string {
 	return l
 }
 
-// heads answers the head that says so.
+// heads answers the head that says so: the area and 1, and how many sectors.
 func heads(area, count uint64) string {
-	s := wire.PutNum(wire.PutNum(wire.PutNum("", area), 1), count)
+	s := wire.PutNum(wire.PutNum("", area+1), count)
 	return s + strings.Repeat("\x00", 32-len(s))
 }
 
@@ -275,7 +275,7 @@ func TestFormat(t *testing.T) {
 		}
 		same(t, "Format", Format(d), api.OK)
 		want := made(t, x.sectors, x.room)
-		commits(t, "Write", want.Write(0, filled(t, "00 01 01 00")))
+		commits(t, "Write", want.Write(0, filled(t, "01 01 00")))
 		commits(t, "Flush", want.Flush())
 		alike(t, "Format", d, want)
 		idle(t, "Recover", d, Recover, api.OK)
@@ -289,7 +289,7 @@ func TestFormatAgain(t *testing.T) {
 	was := kept(d)
 	d.SetRoom(0)
 	same(t, "Format", Format(d), api.OK)
-	reads(t, "the head", woken(d, nil), 0, filled(t, "00 01 01 00"))
+	reads(t, "the head", woken(d, nil), 0, filled(t, "01 01 00"))
 	same(t, "what is kept", kept(d), was)
 	commits(t, "Write", d.Write(145, of("c")))
 	idle(t, "Recover", d, Recover, api.OK)
@@ -332,7 +332,7 @@ func flush(d *disk.Disk) api.Errno { return d.Flush() }
 // P5.1 to P5.3: which operations there are, in their order.
 func TestOperations(t *testing.T) {
 	d := made(t, 300, 300)
-	steps(t, "Format", d, Format, writes(0, filled(t, "00 01 01 00")), flush)
+	steps(t, "Format", d, Format, writes(0, filled(t, "01 01 00")), flush)
 	commits(t, "Format", Format(d))
 	steps(t, "Recover", d, Recover)
 	steps(t, "Commit", d, commit())
@@ -344,7 +344,7 @@ func TestOperations(t *testing.T) {
 	bytes += strings.Repeat("\x00", 64-len(bytes))
 	steps(t, "Commit", d, commit(w(145, "a")),
 		writes(73, bytes[:32]), writes(74, bytes[32:]), flush,
-		writes(0, filled(t, "01 01 01 01 01 02")), flush,
+		writes(0, filled(t, "01 02 01 02")), flush,
 		writes(145, of("a")), flush)
 	commits(t, "Commit", Commit(d, []api.Write{w(145, "a")}))
 	steps(t, "Recover", d, Recover, writes(145, of("a")), flush)
@@ -355,7 +355,7 @@ func TestOperations(t *testing.T) {
 	same(t, "sectors", len(l), 4)
 	steps(t, "Commit", d, commit(w(299, "b"), w(146, "c"), w(145, "\x00")),
 		writes(1, l[0]), writes(2, l[1]), writes(3, l[2]), writes(4, l[3]), flush,
-		writes(0, filled(t, "00 01 01 01 04")), flush,
+		writes(0, filled(t, "01 01 01 04")), flush,
 		writes(299, of("b")), writes(146, of("c")), writes(145, of("\x00")), flush)
 	commits(t, "Commit", Commit(d, []api.Write{w(299, "b"), w(146, "c"), w(145, "\x00")}))
 	steps(t, "Recover", d, Recover, writes(299, of("b")), writes(146, of("c")), writes(145, of("\x00")), flush)
@@ -452,13 +452,18 @@ func TestCommitOfWhatMayNotBe(t *testing.T) {
 // P5.2, P5.3: what is in the sector 0 is no head.
 func TestNoHead(t *testing.T) {
 	for _, digits := range []string{
-		"", "00", "00 00 00", "01 01", "01 01 00 01 02",
-		"01 02 01 01 00", "01 ff 01 01 00", "02 01 00 01 01 00", "05 01 00 00 00 00 01 01 00", "08 80 00 00 00 00 00 00 00 01 01 00", "08 ff ff ff ff ff ff ff ff 01 01 00",
-		"00 00 01 02", "00 01 02 00", "00 01 ff 00", "01 01 01 02 01 02", "00 02 01 01 00", "00 05 01 00 00 00 01 00",
-		"00 01 01 01 49", "01 01 01 01 01 49", "00 01 01 01 ff", "00 01 01 02 01 00", "00 01 01 05 01 00 00 00 00", "00 01 01 05 01 00 00 00 02", "00 01 01 08 80 00 00 00 00 00 00 00", "00 01 01 08 ff ff ff ff ff ff ff ff",
-		"00 01 01 00 01", "00 01 01 00 00 01", "01 01 01 01 01 02 01", "00 01 01 00" + strings.Repeat("00", 27) + "01", "01 01 01 01 01 02" + strings.Repeat("00", 25) + "80",
-		"01 00 01 01 00", "00 02 00 01 00", "00 01 01 01 00", "02 00 01 01 01 00", "00 01 01 02 00 02", "00 01 01 09", "09", "ff", "00 09", "00 01 09",
-		strings.Repeat("01", 32), strings.Repeat("ff", 32), strings.Repeat("08", 32), "00 01 01 08" + strings.Repeat("ff", 8) + strings.Repeat("00", 19) + "07",
+		"", "00", "00 00 00", "00 01 00", "00 01 01", "00 01 02",
+		// No area is before the first one, or behind the second one.
+		"00 00", "01 03 00", "01 03 01 02", "01 ff 01 02", "02 01 00 00", "02 01 01 01 02", "02 01 02 01 02", "05 01 00 00 00 01 01 02", "05 01 00 00 00 02 01 02", "08 80 00 00 00 00 00 00 00 01 02", "08 80 00 00 00 00 00 00 01 01 02", "08 ff ff ff ff ff ff ff ff 01 02",
+		// It says more sectors than an area has.
+		"01 01 01 49", "01 02 01 49", "01 01 01 ff", "01 01 02 01 00", "01 02 02 01 02", "01 01 05 01 00 00 00 00", "01 02 05 01 00 00 00 02", "01 01 08 80 00 00 00 00 00 00 00", "01 02 08 80 00 00 00 00 00 00 02", "01 01 08 ff ff ff ff ff ff ff ff",
+		// There is more behind the two numbers.
+		"01 01 00 01", "01 01 00 00 01", "01 02 01 02 01", "01 01 01 02 01 02", "01 01 00" + strings.Repeat("00", 28) + "01", "01 02 01 02" + strings.Repeat("00", 27) + "80",
+		// Three numbers: the area, 1, and how many.
+		"00 01 01 00", "00 01 01 01 02", "00 01 01 01 49", "01 01 01 01 01 02",
+		// They are no numbers' bytes.
+		"01 00 00", "01 00 01 02", "02 00 01 00", "02 00 02 01 02", "01 01 01 00 01", "01 02 02 00 02", "01 01 09", "01 02 ff", "01 02 09 02", "09", "ff", "00 09", "09 01 01 02",
+		strings.Repeat("01", 32), strings.Repeat("ff", 32), strings.Repeat("08", 32), "01 01 08" + strings.Repeat("ff", 8) + strings.Repeat("00", 20) + "07",
 	} {
 		d := made(t, 200, 200)
 		for i, data := range sectorsOf(t, textOf(w(150, "a"))) {
